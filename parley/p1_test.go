@@ -1,0 +1,127 @@
+package parley
+
+import (
+	"errors"
+	"math"
+	"strings"
+	"sync"
+	"testing"
+)
+
+// The document's list of calls, held against the package by the compiler.
+var (
+	_ func(string) string                                  = Hash
+	_ func(string, string) string                          = Mac
+	_ func(string, string, int) (string, Errno)            = Expand
+	_ func(string, string, string, string) (string, Errno) = Seal
+	_ func(string, string, string, string) (string, Errno) = Open
+	_ func(string, string) (string, Errno)                 = Share
+	_ func(string) (*Machine, Errno, int)                  = Compile
+	_ func(*Machine, []Happening) []Taken                  = (*Machine).Walk
+	_ func(Config) (*End, Errno)                           = New
+	_ func(*End) (string, Errno)                           = (*End).Greet
+	_ func(*End, string) ([]Event, string)                 = (*End).Feed
+	_ func(*End, string) (string, Errno)                   = (*End).Write
+	_ func(*End, bool) (string, Errno)                     = (*End).Renew
+	_ func(*End) (string, Errno)                           = (*End).Close
+	_ func(*End) string                                    = (*End).State
+	_ func(*End) string                                    = (*End).Talk
+	_ func(*End) error                                     = (*End).Why
+	_ error                                                = (*Alert)(nil)
+	_ interface{ Unwrap() error }                          = (*Alert)(nil)
+	_                                                      = Happening{Event: "", Holds: []string{}}
+	_                                                      = Taken{Rule: 0, State: "", Actions: []string{}}
+	_                                                      = Config{Role: 0, Secret: "", Random: "", Name: "", Key: "", Must: false}
+	_                                                      = Event{Kind: 0, Code: 0, Text: ""}
+	_                                                      = Alert{Code: 0}
+)
+
+func TestErrorNumbers(t *testing.T) {
+	for want, e := range []Errno{OK, ErrArg, ErrLong, ErrText, ErrMany, ErrTwice, ErrGoal, ErrNever, ErrLost, ErrOpen, ErrShare, ErrState} {
+		if int(e) != want {
+			t.Errorf("P1: error number %d is %d", want, e)
+		}
+	}
+	if Broken == nil || errors.Unwrap(Broken) != nil {
+		t.Errorf("P1: Broken is %v", Broken)
+	}
+}
+
+// oddTexts are texts at which a careless call would trip: none, just off a size, no letters, long.
+func oddTexts() []string {
+	list := []string{"", "\x00", "\xff\xfe", "ä", some(100000, 1)}
+	for _, n := range []int{11, 12, 13, 15, 16, 17, 31, 32, 33, 55, 56, 63, 64, 65} {
+		list = append(list, some(n, n), strings.Repeat("\xff", n))
+	}
+	return list
+}
+
+func oddNumbers() []int {
+	return []int{math.MinInt, math.MinInt32, -1, 0, 1, 31, 32, 33, 8159, 8160, 8161, math.MaxInt32, math.MaxInt}
+}
+
+func TestNoCallPanics(t *testing.T) {
+	list := oddTexts()
+	for i, a := range list {
+		for j, b := range list {
+			Hash(a)
+			Mac(a, b)
+			c, d := list[(i+j)%len(list)], list[(3*i+5*j)%len(list)]
+			sealed, e := Seal(a, b, c, d)
+			emptyBesideError(t, "Seal", sealed, e)
+			opened, e := Open(a, b, c, d)
+			emptyBesideError(t, "Open", opened, e)
+			share, e := Share(a, b)
+			emptyBesideError(t, "Share", share, e)
+			made, e := Expand(a, b, i*j)
+			emptyBesideError(t, "Expand", made, e)
+		}
+	}
+	for _, n := range oddNumbers() {
+		made, e := Expand("key", "info", n)
+		emptyBesideError(t, "Expand", made, e)
+	}
+}
+
+func emptyBesideError(t *testing.T, what, answer string, e Errno) {
+	t.Helper()
+	if e != OK && answer != "" {
+		t.Errorf("P1: %s: %d bytes beside error %d", what, len(answer), e)
+	}
+}
+
+// TestErrorNamedFirst has calls at which both errors of a promise apply.
+func TestErrorNamedFirst(t *testing.T) {
+	got, e := Open(some(31, 1), some(12, 1), "", "no tag")
+	refused(t, "P1: Open with a short key of a short text", got, e, ErrArg)
+	got, e = Open(some(32, 1), some(11, 1), "", "no tag")
+	refused(t, "P1: Open with a short nonce of a short text", got, e, ErrArg)
+	got, e = Share(some(31, 1), strings.Repeat("\x00", 32))
+	refused(t, "P1: Share of a short secret and zeros", got, e, ErrArg)
+}
+
+// everyAnswer joins what the calls answer of a seed.
+func everyAnswer(seed int) string {
+	key, nonce, text := some(32, seed), some(12, seed), some(seed*37, seed)
+	made, _ := Expand(key, text, seed*50)
+	sealed, _ := Seal(key, nonce, text, text)
+	opened, _ := Open(key, nonce, text, sealed)
+	share, _ := Share(key, some(32, seed+1))
+	return Hash(text) + Mac(key, text) + made + sealed + opened + share
+}
+
+func TestCallsShareNothing(t *testing.T) {
+	const seeds = 20
+	var want, got [seeds]string
+	for i := range seeds {
+		want[i] = everyAnswer(i)
+	}
+	var group sync.WaitGroup
+	for i := range seeds {
+		group.Go(func() { got[i] = everyAnswer(i) })
+	}
+	group.Wait()
+	if got != want {
+		t.Error("P1: calls side by side answer something else than one behind the other")
+	}
+}
