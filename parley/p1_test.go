@@ -75,11 +75,25 @@ func TestNoCallPanics(t *testing.T) {
 			emptyBesideError(t, "Share", share, e)
 			made, e := Expand(a, b, i*j)
 			emptyBesideError(t, "Expand", made, e)
+			tryMachine(t, a+b, []Happening{{a, list}, {}, {b, nil}})
+			tryMachine(t, "state s{on a if not b go s;}", []Happening{{"a", list}, {a, list[:i]}, {b, list}})
 		}
 	}
 	for _, n := range oddNumbers() {
 		made, e := Expand("key", "info", n)
 		emptyBesideError(t, "Expand", made, e)
+	}
+}
+
+// tryMachine walks a text, if it is a machine, and holds what stands beside the error if it is none.
+func tryMachine(t *testing.T, text string, list []Happening) {
+	t.Helper()
+	m, e, place := Compile(text)
+	if (m == nil) != (e != OK) || e <= ErrLong && place != 0 || place < 0 || place > len(text) {
+		t.Errorf("P1: Compile(%.50q): machine %v beside error %d, place %d", text, m != nil, e, place)
+	}
+	if m != nil && len(m.Walk(list)) != len(list) {
+		t.Errorf("P4: Walk of %d things told of another number", len(list))
 	}
 }
 

@@ -21,19 +21,6 @@ const (
 	ErrState       // not in this state
 )
 
-// Happening is an event, and what holds.
-type Happening struct {
-	Event string
-	Holds []string
-}
-
-// Taken is the rule that was taken, the state behind it, and what was done.
-type Taken struct {
-	Rule    int
-	State   string
-	Actions []string
-}
-
 // Config is how an end is made.
 type Config struct {
 	Role           int
@@ -54,17 +41,8 @@ type Alert struct{ Code int }
 // Broken is what every alert is.
 var Broken = errors.New("parley: the talk is broken")
 
-// Machine is states and rules. Make it by Compile.
-type Machine struct{}
-
 // End is one end of a talk. Make it by New.
 type End struct{}
-
-// Compile reads a machine (P3).
-func Compile(text string) (*Machine, Errno, int) { return nil, 0, 0 }
-
-// Walk walks it (P4).
-func (m *Machine) Walk(list []Happening) []Taken { return nil }
 
 // New makes an end (P5).
 func New(c Config) (*End, Errno) { return nil, 0 }
