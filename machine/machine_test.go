@@ -37,6 +37,41 @@ func TestSteps(t *testing.T) {
 	}
 }
 
+func TestTakes(t *testing.T) {
+	m, _, _ := Compile(lamp)
+	walk := m.Begin()
+	for _, c := range []struct {
+		event string
+		holds []string
+		takes bool
+	}{
+		{"push", nil, true},
+		{"drop", nil, false},
+		{"", nil, false},
+		{"push", []string{"wired"}, true},
+		{"drop", nil, true},
+		{"drop", nil, false},
+		{"push", nil, false},
+	} {
+		before := walk
+		takes := walk.Takes(c.event, c.holds)
+		if takes != c.takes || walk != before {
+			t.Errorf("%s in %s is taken: %v", c.event, walk.State(), takes)
+		}
+		if takes {
+			walk.Step(c.event, c.holds)
+		}
+		if walk.Closed() != (walk.State() == "closed") {
+			t.Errorf("closed in %s: %v", walk.State(), walk.Closed())
+		}
+	}
+	guarded, _, _ := Compile("state s{on a if b,not c go s;}")
+	walk = guarded.Begin()
+	if walk.Takes("a", nil) || !walk.Takes("a", []string{"b"}) || walk.Takes("a", []string{"b", "c"}) {
+		t.Error("a rule is taken without its guards")
+	}
+}
+
 func TestWalksOfOneMachineGoTheirOwnWays(t *testing.T) {
 	m, _, _ := Compile(lamp)
 	one, two := m.Begin(), m.Begin()

@@ -13,17 +13,24 @@ func (m *Machine) Begin() Walk { return Walk{machine: m} }
 
 // State answers the word of the state in which the walk stands.
 func (w *Walk) State() string {
-	if w.closed() {
+	if w.Closed() {
 		return closedWord
 	}
 	return w.machine.states[w.row]
 }
 
-func (w *Walk) closed() bool { return w.row == len(w.machine.table) }
+// Closed tells whether nothing is taken or done any more.
+func (w *Walk) Closed() bool { return w.row == len(w.machine.table) }
+
+// Takes tells whether the state has a rule that would be taken.
+func (w *Walk) Takes(event string, holds []string) bool {
+	_, ok := first(w.rules(event), holds)
+	return ok
+}
 
 // Step goes on by what happens: it answers the number of the rule that was taken (-1: none), and what is done, as a list of its own.
 func (w *Walk) Step(event string, holds []string) (int, []string) {
-	if w.closed() {
+	if w.Closed() {
 		return -1, nil
 	}
 	taken, ok := first(w.rules(event), holds)
@@ -38,7 +45,7 @@ func (w *Walk) Step(event string, holds []string) (int, []string) {
 // rules answers those of the state that an event asks for.
 func (w *Walk) rules(event string) []step {
 	column, known := w.machine.columns[event]
-	if !known {
+	if !known || w.Closed() {
 		return nil
 	}
 	return w.machine.table[w.row][column]

@@ -82,6 +82,83 @@ func TestNoCallPanics(t *testing.T) {
 	for _, n := range oddNumbers() {
 		made, e := Expand("key", "info", n)
 		emptyBesideError(t, "Expand", made, e)
+		tryConfig(t, Config{Role: n, Secret: some(32, 1), Random: some(32, 2)}, list)
+	}
+	for i, a := range list {
+		b, c, d := list[(i+1)%len(list)], list[(i+2)%len(list)], list[(i+3)%len(list)]
+		tryConfig(t, Config{Role: i % 2, Secret: a, Random: b, Name: c, Key: d, Must: i%3 == 0}, list)
+		tryConfig(t, Config{Role: i % 2, Secret: some(32, 1), Random: some(32, 2), Name: a, Key: b, Must: i%3 == 0}, list)
+	}
+}
+
+// tryConfig makes all calls of an end, if there is one.
+func tryConfig(t *testing.T, c Config, list []string) {
+	t.Helper()
+	e, f := New(c)
+	if (e == nil) != (f != OK) {
+		t.Errorf("P1: New: an end %v beside error %d", e != nil, f)
+	}
+	if e != nil {
+		tryEnd(t, e, list)
+	}
+}
+
+func tryEnd(t *testing.T, e *End, list []string) {
+	t.Helper()
+	for i, text := range list {
+		out, f := e.Greet()
+		emptyBesideError(t, "Greet", out, f)
+		out, f = e.Write(text)
+		emptyBesideError(t, "Write", out, f)
+		out, f = e.Renew(i%2 == 0)
+		emptyBesideError(t, "Renew", out, f)
+		e.Feed(text)
+		e.State()
+		e.Talk()
+		e.Why()
+	}
+	out, f := e.Close()
+	emptyBesideError(t, "Close", out, f)
+}
+
+// TestNoEndPanics feeds ends in each state, as their peers would, whatever there is, and behind it odd texts.
+func TestNoEndPanics(t *testing.T) {
+	list := oddTexts()
+	for _, stands := range stands {
+		for i, text := range list {
+			for kind := range 5 {
+				s := stands(t)
+				s.end.Feed(s.says(kind, text[:min(len(text), 300)]))
+				s.end.Feed(s.says(kind, framed(awaited(s.end.State()), text[:min(len(text), 100)])))
+				tryEnd(t, s.end, list[i:])
+			}
+		}
+	}
+}
+
+// TestEndsAnswerAlike: an end hangs on how it was made and on its calls; what was answered is nobody's to turn.
+func TestEndsAnswerAlike(t *testing.T) {
+	talk := func(turn bool) (said string) {
+		p := newPair(t, config(0, true, 9), config(1, true, 9))
+		for i := range 30 {
+			to := (1 + i) % 2
+			events, out := p.ends[to].Feed(p.way[to])
+			said += p.way[to]
+			for j := range events {
+				said += events[j].Text
+				if turn {
+					events[j] = Event{Kind: 7, Text: "turned"}
+				}
+			}
+			p.way = [2]string{}
+			p.way[1-to] = out
+			more, _ := p.ends[to].Write(some(10*i, i))
+			p.way[1-to] += more
+		}
+		return said + p.ends[0].Talk() + p.ends[1].Talk()
+	}
+	if talk(false) != talk(true) {
+		t.Error("P1: the same calls are answered otherwise")
 	}
 }
 
@@ -121,7 +198,21 @@ func everyAnswer(seed int) string {
 	sealed, _ := Seal(key, nonce, text, text)
 	opened, _ := Open(key, nonce, text, sealed)
 	share, _ := Share(key, some(32, seed+1))
-	return Hash(text) + Mac(key, text) + made + sealed + opened + share
+	return Hash(text) + Mac(key, text) + made + sealed + opened + share + everyWord(seed)
+}
+
+// everyWord joins what two ends say to each other.
+func everyWord(seed int) string {
+	asking, _ := New(config(0, seed%2 == 0, seed))
+	answering, _ := New(config(1, seed%2 == 0, seed))
+	hello, _ := asking.Greet()
+	_, reply := answering.Feed(hello)
+	_, finish := asking.Feed(reply)
+	answering.Feed(finish)
+	data, _ := asking.Write("data")
+	update, _ := asking.Renew(true)
+	_, answer := answering.Feed(data + update)
+	return hello + reply + finish + data + update + answer + asking.Talk() + answering.Talk()
 }
 
 func TestCallsShareNothing(t *testing.T) {

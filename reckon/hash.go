@@ -13,8 +13,8 @@ const (
 // state is what the hash keeps between blocks. It is an array, so that whoever goes on from it goes on from a copy.
 type state [8]uint32
 
-// running is a hash that has taken length bytes; those that fill no block yet stand first in rest.
-type running struct {
+// Running is a hash that has taken length bytes; those that fill no block yet stand first in rest. It is a value: who adds to it has another one.
+type Running struct {
 	state  state
 	rest   [blockSize]byte
 	length uint64
@@ -22,14 +22,16 @@ type running struct {
 
 // Hash is SHA-256.
 func Hash(data string) [sumSize]byte {
-	return begin().add(data).end().sum()
+	return Begin().Add(data).Sum()
 }
 
-func begin() running {
-	return running{state: hashConstants.start}
+// Begin answers a hash that has taken nothing yet.
+func Begin() Running {
+	return Running{state: hashConstants.start}
 }
 
-func (r running) add(data string) running {
+// Add answers the hash that has taken data, too.
+func (r Running) Add(data string) Running {
 	for len(data) > 0 {
 		n := copy(r.rest[r.length%blockSize:], data)
 		data = data[n:]
@@ -41,10 +43,13 @@ func (r running) add(data string) running {
 	return r
 }
 
-func (r running) end() state {
+// Sum is the hash of all that was taken.
+func (r Running) Sum() [sumSize]byte { return r.end().sum() }
+
+func (r Running) end() state {
 	zeros := int(119-r.length%blockSize) % blockSize // so that the eight bytes of the length end a block
 	bitLength := r.length * 8
-	return r.add("\x80" + strings.Repeat("\x00", zeros) + highestFirst(bitLength)).state
+	return r.Add("\x80" + strings.Repeat("\x00", zeros) + Eight(bitLength)).state
 }
 
 func (s state) mix(block [blockSize]byte) state {
@@ -84,11 +89,11 @@ func (s state) sum() [sumSize]byte {
 	return out
 }
 
-// highestFirst is n in eight bytes.
-func highestFirst(n uint64) string {
-	var out [8]byte
-	for i := range out {
-		out[i] = byte(n >> (56 - i*8))
+// readState answers the state whose sum is given.
+func readState(sum [sumSize]byte) state {
+	var s state
+	for i, b := range sum {
+		s[i/4] = s[i/4]<<8 | uint32(b)
 	}
-	return string(out[:])
+	return s
 }

@@ -47,7 +47,7 @@ func TestHashInParts(t *testing.T) {
 	want := sha256.Sum256([]byte(text))
 	for i := range len(text) + 1 {
 		for j := i; j <= len(text); j += 7 {
-			if begin().add(text[:i]).add(text[i:j]).add(text[j:]).end().sum() != want {
+			if Begin().Add(text[:i]).Add(text[i:j]).Add(text[j:]).Sum() != want {
 				t.Fatalf("P2: the hash of a text cut at %d and %d", i, j)
 			}
 		}
@@ -55,13 +55,13 @@ func TestHashInParts(t *testing.T) {
 }
 
 func TestCopiesGoTheirOwnWay(t *testing.T) {
-	begun := begin().add(some(100, 2))
+	begun := Begin().Add(some(100, 2))
 	kept := begun
-	one, other := begun.add("a").end(), begun.add("b").end()
+	one, other := begun.Add("a").end(), begun.Add("b").end()
 	if begun != kept {
 		t.Error("P1: what goes on from a hash has changed it")
 	}
-	if one == other || one != begun.add("a").end() {
+	if one == other || one != begun.Add("a").end() {
 		t.Error("P1: two that go on from one hash have met")
 	}
 }
@@ -92,11 +92,47 @@ func TestExpandHoldsItsBounds(t *testing.T) {
 	}
 }
 
-func TestHighestFirst(t *testing.T) {
-	if s := highestFirst(0x0102030405060708); s != "\x01\x02\x03\x04\x05\x06\x07\x08" {
-		t.Errorf("P2: %x", s)
+func TestNumbersInBytes(t *testing.T) {
+	for _, c := range []struct{ got, want string }{
+		{One(0), "\x00"},
+		{One(255), "\xff"},
+		{Two(1), "\x00\x01"},
+		{Two(0x1234), "\x12\x34"},
+		{Eight(1), strings.Repeat("\x00", 7) + "\x01"},
+		{Eight(0x0102030405060708), "\x01\x02\x03\x04\x05\x06\x07\x08"},
+	} {
+		if c.got != c.want {
+			t.Errorf("P2: %x; want %x", c.got, c.want)
+		}
 	}
-	if s := highestFirst(1); s != strings.Repeat("\x00", 7)+"\x01" {
-		t.Errorf("P2: %x", s)
+}
+
+func TestIsMac(t *testing.T) {
+	sum := Mac("key", "data")
+	if !IsMac("key", "data", sum) || IsMac("kez", "data", sum) || IsMac("key", "date", sum) {
+		t.Error("P10: what is a Mac of what")
+	}
+	for i := range sum {
+		turned := sum
+		turned[i] ^= 1
+		if IsMac("key", "data", turned) {
+			t.Errorf("P10: byte %d is not looked at", i)
+		}
+	}
+}
+
+func TestDerive(t *testing.T) {
+	for _, c := range []struct {
+		label, context string
+		n              int
+		info           string
+	}{
+		{"iv", "", 12, "\x00\x0c\x02iv\x00"},
+		{"exp", some(32, 1), 32, "\x00\x20\x03exp\x20" + some(32, 1)},
+		{"", "c", 300, "\x01\x2c\x00\x01c"},
+	} {
+		if got := Derive("secret", c.label, c.context, c.n); got != Expand("secret", c.info, c.n) || len(got) != c.n {
+			t.Errorf("P10: Derive of %q: %d bytes", c.label, len(got))
+		}
 	}
 }
