@@ -180,13 +180,13 @@ func (e *End) alert(t *turn) {
 func (e *End) clear() {
 	e.own.clear()
 	e.master.Clear()
-	e.in.line.Clear()
 	e.out.Clear()
-	e.in, e.said = records{}, reckon.Running{}
+	e.in.clear()
+	e.said = reckon.Running{}
 }
 
 func (o *own) clear() {
 	o.secret.Clear()
 	clear(o.key)
-	*o = own{}
+	o.key, o.random, o.name = nil, "", ""
 }

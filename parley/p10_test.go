@@ -1,6 +1,10 @@
 package parley
 
-import "testing"
+import (
+	"testing"
+
+	"parley/reckon"
+)
 
 // noShare are points with which no share can be had, whatever the secret is.
 func noShare(t *testing.T) []string {
@@ -224,19 +228,20 @@ func TestSecretsAreCleared(t *testing.T) {
 		e, state := s.end, s.end.State()
 		agreed := state == "finish" || state == "ready"
 		isEmpty := e.own.secret == [32]byte{} && len(e.own.key) == 0 && e.own.random == "" && e.own.name == ""
-		if isEmpty != agreed || (e.master != [32]byte{}) != (state == "finish") {
+		begun := e.said != reckon.Running{}
+		if isEmpty != agreed || (e.master != [32]byte{}) != (state == "finish") || begun != (state != "ready") {
 			t.Errorf("P10: %s: an end keeps %+v, %x", s.name, e.own, e.master)
 		}
 		key := e.own.key
+		s.quiet(t, s.says(1, one(awaited(state)))+"\x02", "")
 		e.Close()
 		for _, b := range key {
 			if b != 0 {
 				t.Fatalf("P10: %s: the key %x is not cleared", s.name, key)
 			}
 		}
-		talk, walk := e.talk, e.walk
-		kept := End{walk: walk, role: e.role, talk: talk}
-		if e.own.secret != kept.own.secret || e.own.key != nil || e.own.name != "" || e.master != kept.master || e.said != kept.said || e.out != kept.out || e.in.line != kept.in.line || e.in.record.held != nil || e.in.message.held != nil {
+		var none End
+		if e.own.secret != none.own.secret || e.own.key != nil || e.own.random != "" || e.own.name != "" || e.master != none.master || e.said != none.said || e.out != none.out || e.in.line != none.in.line || e.in.record.held != nil || e.in.message.held != nil {
 			t.Errorf("P10: %s: a closed end keeps %+v", s.name, e)
 		}
 	}

@@ -161,6 +161,11 @@ func (c content) check() error {
 	return fault{codeUnexpected, "a sealed record of no type"}
 }
 
+func (r *records) clear() {
+	r.line.Clear()
+	r.record, r.messages = frame{}, messages{}
+}
+
 // newRecord answers a record with a content in it, sealed by a line if that has a secret.
 func newRecord(line *keys.Line, c content) string {
 	if !line.Laid() {
